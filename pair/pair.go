@@ -74,7 +74,7 @@ func first(s string) (p api.Pair, rest string, ok bool) {
 		return api.Pair{}, "", false
 	}
 	told, rest, ended := strings.Cut(rest[1:], "\n")
-	val, ok := number(told)
+	val, ok := Number(told)
 	if !ended || !ok {
 		return api.Pair{}, "", false
 	}
@@ -84,15 +84,15 @@ func first(s string) (p api.Pair, rest string, ok bool) {
 // cutKey off a text that begins with how many bytes the key has: a key may have any bytes, so these alone tell its end.
 func cutKey(s string) (key, rest string, ok bool) {
 	told, rest, colon := strings.Cut(s, ":")
-	size, ok := number(told)
+	size, ok := Number(told)
 	if !colon || !ok || size < 0 || size > len(rest) {
 		return "", "", false
 	}
 	return rest[:size], rest[size:], true
 }
 
-// number that a text tells. Telling it anew shuts out what the library reads, and no Text has: '+', noughts ahead, "-0".
-func number(s string) (int, bool) {
+// Number that a text tells. Telling it anew shuts out what the library reads, and no Text has: '+', noughts ahead, "-0".
+func Number(s string) (int, bool) {
 	n, err := strconv.Atoi(s)
 	if err != nil || strconv.Itoa(n) != s {
 		return 0, false

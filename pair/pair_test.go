@@ -213,3 +213,17 @@ func FuzzText(f *testing.F) {
 		}
 	})
 }
+
+// Z3: numbers as they are told, and no other texts: what other packages read numbers by.
+func TestNumber(t *testing.T) {
+	for _, n := range []int{0, 1, -1, 9, 10, -10, 1000, math.MaxInt, math.MinInt} {
+		if got, ok := pair.Number(strconv.Itoa(n)); got != n || !ok {
+			t.Errorf("Number of %d = %d, %v", n, got, ok)
+		}
+	}
+	for _, s := range []string{"", " ", "-", "+", "+1", "01", "00", "-0", "-01", "--1", " 1", "1 ", "1\n", "1.", "1e2", "0x1", "1_0", "a", "\u0661", "9223372036854775808", "-9223372036854775809", strings.Repeat("9", 500)} {
+		if got, ok := pair.Number(s); got != 0 || ok {
+			t.Errorf("Number(%q) = %d, %v, want none", s, got, ok)
+		}
+	}
+}
